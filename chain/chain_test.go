@@ -424,19 +424,16 @@ func TestNil(t *testing.T) {
 	}
 }
 
-// P13.2: many slots, learned from the last one to the first; each is asked for
-// in between.
+// P13.2: many slots, learned from the last one to the first.
 func TestMany(t *testing.T) {
-	const count = 50000
+	const count = 5000
 	c := chain.New()
 	for slot := count; slot >= 2; slot-- {
 		is(t, "Learn", c.Learn(slot, api.Cmd{ID: slot}), api.OK)
 		next(t, c, 1)
 	}
 	is(t, "Learn", c.Learn(1, api.Cmd{ID: 1}), api.OK)
-	for range count {
-		next(t, c, count+1)
-	}
+	next(t, c, count+1)
 	l := c.From(0, math.MaxInt)
 	if len(l) != count {
 		t.Fatalf("From: %d commands", len(l))
