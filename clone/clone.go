@@ -31,3 +31,15 @@ func Msg(m api.Msg) api.Msg {
 	m.Bytes = bytes.Clone(m.Bytes)
 	return m
 }
+
+// Blob is a copy of a blob.
+func Blob(b api.Blob) api.Blob {
+	b.Nodes = slices.Clone(b.Nodes)
+	return b
+}
+
+// Recode is a copy of a recode.
+func Recode(r api.Recode) api.Recode {
+	r.Nodes = slices.Clone(r.Nodes)
+	return r
+}

@@ -60,3 +60,20 @@ func TestEmpty(t *testing.T) {
 		t.Error("a copy of nothing is something")
 	}
 }
+
+func TestBlobAndRecode(t *testing.T) {
+	b := api.Blob{ID: 1, Size: 2, Sum: 3, Code: api.Code{K: 4, M: 5}, Nodes: []int{6, 7}}
+	r := api.Recode{Blob: 1, Other: 2, Code: api.Code{K: 3, M: 4}, Nodes: []int{5, 6}}
+	one, other := clone.Blob(b), clone.Recode(r)
+	if !reflect.DeepEqual(one, b) || !reflect.DeepEqual(other, r) {
+		t.Fatal("a copy is another one")
+	}
+	clear(one.Nodes[:cap(one.Nodes)])
+	clear(other.Nodes[:cap(other.Nodes)])
+	if b.Nodes[0] != 6 || b.Nodes[1] != 7 || r.Nodes[0] != 5 || r.Nodes[1] != 6 {
+		t.Fatal("a copy shares memory")
+	}
+	if !reflect.DeepEqual(clone.Blob(api.Blob{}), api.Blob{}) || !reflect.DeepEqual(clone.Recode(api.Recode{}), api.Recode{}) {
+		t.Error("a copy of noughts is another one")
+	}
+}
