@@ -64,16 +64,6 @@ func (s *State) renewed() api.Out {
 // isNode tells whether a number is that of a node.
 func (s *State) isNode(n int) bool { return n >= 0 && n < s.nodes }
 
-// isKey tells whether a text is a key.
-func isKey(text string) bool {
-	for i := range len(text) {
-		if c := text[i]; (c < 'a' || c > 'z') && (c < '0' || c > '9') {
-			return false
-		}
-	}
-	return len(text) >= 1 && len(text) <= api.MaxKey
-}
-
 // fit tells whether a code may be, and nodes fit it. Their number is asked
 // first, so that the list is short from there on.
 func (s *State) fit(c api.Code, on []int) bool {

@@ -5,10 +5,11 @@ import (
 
 	"amphora/api"
 	"amphora/clone"
+	"amphora/keys"
 )
 
 func (s *State) put(c api.Cmd) api.Out {
-	if c.ID <= 0 || !isKey(c.Key) || !s.fit(c.Code, c.Nodes) || c.Size < 0 || c.Size > api.MaxBlob {
+	if c.ID <= 0 || !keys.Is(c.Key) || !s.fit(c.Code, c.Nodes) || c.Size < 0 || c.Size > api.MaxBlob {
 		return refused()
 	}
 	if _, ok := s.keys[c.Key]; ok {

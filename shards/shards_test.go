@@ -104,15 +104,39 @@ func TestStore(t *testing.T) {
 		t.Fatalf("asks %+v", got)
 	}
 	x := api.Msg{Kind: api.MsgStored, Blob: 7, Index: 1, From: 0}
-	if s.On(x) {
+	if s.On(x) || !s.Refused(x) {
 		t.Fatal("a store that is refused is done")
 	}
 	x.OK = true
-	if !s.On(x) || s.On(x) || s.Done() || !reflect.DeepEqual(s.Asks(3, 8), want[:1]) {
+	if s.Refused(x) || !s.On(x) || s.On(x) || s.Done() || !reflect.DeepEqual(s.Asks(3, 8), want[:1]) {
 		t.Fatal("a shard is not stored just once")
 	}
+	if x.OK = false; s.Refused(x) {
+		t.Fatal("a shard is refused that is stored")
+	}
+	x.OK = true
 	x.Index, x.From = 0, 4
 	if !s.On(x) || !s.Done() || len(s.Asks(3, 8)) != 0 {
 		t.Fatal("not all are stored")
+	}
+}
+
+// A store is refused by the answer to it alone.
+func TestRefused(t *testing.T) {
+	s := shards.NewStore(7, []int{4, 0}, [][]byte{[]byte("abcd"), []byte("efgh")})
+	for _, but := range []func(x *api.Msg){
+		func(x *api.Msg) { x.Kind = api.MsgFetched },
+		func(x *api.Msg) { x.OK = true },
+		func(x *api.Msg) { x.Blob = 8 },
+		func(x *api.Msg) { x.Index = -1 },
+		func(x *api.Msg) { x.Index = 0 },
+		func(x *api.Msg) { x.Index = 2 },
+		func(x *api.Msg) { x.From = 4 },
+	} {
+		x := api.Msg{Kind: api.MsgStored, Blob: 7, Index: 1, From: 0}
+		but(&x)
+		if s.Refused(x) {
+			t.Fatalf("refused by %+v", x)
+		}
 	}
 }

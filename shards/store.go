@@ -37,13 +37,19 @@ func (s *Store) Asks(self, epoch int) []api.Msg {
 
 // On hears a message, and tells whether a shard is stored by it.
 func (s *Store) On(x api.Msg) bool {
-	if x.Kind != api.MsgStored || !x.OK {
-		return false
-	}
-	if !lies(x, s.blob, s.nodes) || len(s.todo[x.Index]) == 0 {
+	if !s.waits(x) || !x.OK {
 		return false
 	}
 	s.todo[x.Index] = nil
 	s.count--
 	return true
+}
+
+// Refused tells whether a message says that a node does not store its shard.
+func (s *Store) Refused(x api.Msg) bool { return s.waits(x) && !x.OK }
+
+// waits tells whether a message is the answer of a node that did not store its
+// shard so far.
+func (s *Store) waits(x api.Msg) bool {
+	return x.Kind == api.MsgStored && lies(x, s.blob, s.nodes) && len(s.todo[x.Index]) > 0
 }
