@@ -162,7 +162,8 @@ func (n *Node) onAnswer(m api.Msg) {
 	}
 	for _, x := range n.recoders {
 		phase := x.Phase()
-		if x.On(m); x.Phase() != phase {
+		x.On(m)
+		if x.Phase() != phase {
 			n.ask(x)
 		}
 	}

@@ -27,15 +27,16 @@ func (p *mail) send(m api.Msg) {
 
 // toAll sends a message to each node, itself included.
 func (p *mail) toAll(m api.Msg) {
-	for m.To = range p.nodes {
+	for to := range p.nodes {
+		m.To = to
 		p.send(m)
 	}
 }
 
 // toOthers sends a message to each other node.
 func (p *mail) toOthers(m api.Msg) {
-	for m.To = range p.nodes {
-		if m.To != p.self {
+	for to := range p.nodes {
+		if m.To = to; to != p.self {
 			p.send(m)
 		}
 	}

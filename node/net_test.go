@@ -9,7 +9,6 @@ import (
 	"amphora/api"
 	"amphora/drift"
 	"amphora/epoch"
-	"amphora/node"
 	"amphora/plate"
 	"amphora/shelf"
 	"amphora/stripe"
@@ -32,7 +31,8 @@ type net struct {
 	t       *testing.T
 	setup   api.Setup
 	plates  []*plate.Plate
-	nodes   []*node.Node // nil, while one does not run
+	others  []*plate.Plate // those of the models
+	nodes   []*pair        // nil, while one does not run
 	clocks  *drift.Clocks
 	packets []api.Msg
 	events  []api.Event
@@ -50,6 +50,7 @@ func newNet(t *testing.T, s api.Setup) *net {
 		p, e := plate.New(s.Sectors)
 		is(t, "plate", e, api.OK)
 		w.plates = append(w.plates, p)
+		w.others = append(w.others, p.Copy())
 		w.nodes = append(w.nodes, nil)
 		w.start(i)
 	}
@@ -94,7 +95,7 @@ func (w *net) take(i int) func(out []api.Msg, told []api.Told, e api.Errno) {
 // agree holds a node's state against those of as many slots that others had.
 func (w *net) agree(i int) {
 	w.t.Helper()
-	s := w.nodes[i].State()
+	s := w.nodes[i].real.State()
 	other, ok := w.states[s.Slot()]
 	if !ok {
 		w.states[s.Slot()] = s
@@ -107,12 +108,8 @@ func (w *net) agree(i int) {
 }
 
 func (w *net) start(i int) {
-	n, e := node.Open(i, w.setup, w.plates[i])
-	if e != api.OK {
-		w.fail("Open of %d: %v", i, e)
-	}
 	w.note("start %d", i)
-	w.nodes[i] = n
+	w.nodes[i] = openPair(w.t, i, w.setup, w.plates[i], w.others[i])
 }
 
 func (w *net) ask(i int, a api.Ask) {
@@ -159,7 +156,7 @@ func (w *net) crash(i int, d *dice) {
 		torn = of(d, dirty...)
 	}
 	w.note("crash %d", i)
-	is(w.t, "Crash", w.plates[i].Crash(keep, torn, d.roll(api.Size+1)), api.OK)
+	w.nodes[i].crash(keep, torn, d.roll(api.Size+1))
 	w.nodes[i] = nil
 }
 
@@ -185,7 +182,9 @@ func (w *net) settle(rounds int) {
 func (w *net) busy() int {
 	sum := 0
 	for _, n := range w.nodes {
-		sum += n.Busy() // of one that does not run: 0
+		if n != nil {
+			sum += n.real.Busy()
+		}
 	}
 	return sum
 }

@@ -6,11 +6,11 @@ import (
 	"amphora/api"
 )
 
-// keysOf is few keys, so that calls meet.
+// keyOf is one of few keys, so that calls meet.
 func keyOf(d *dice) string { return of(d, "a", "b", "c", "d") }
 
 // step does one thing that a script may do.
-func (w *net) step(d *dice, most int) {
+func (w *net) step(d *dice) {
 	i := d.roll(w.setup.Nodes)
 	running := w.nodes[i] != nil
 	switch r := d.roll(100); {
@@ -67,19 +67,52 @@ func (w *net) order(i int, d *dice) {
 	}
 }
 
-// P1 to P5: many scripts, with all that may go wrong but for disks that fail.
+// alive tells whether of each slot that somebody still has to learn more than
+// half of the voters have a disk.
+func (w *net) alive() bool {
+	first := w.last
+	for _, n := range w.nodes {
+		if n != nil {
+			first = min(first, n.real.State().Slot())
+		}
+	}
+	for slot := first; slot <= w.last+api.Alpha; slot++ {
+		voters := w.states[w.last].Voters(slot)
+		count := 0
+		for _, v := range voters {
+			if !w.plates[v].Failed() {
+				count++
+			}
+		}
+		if 2*count <= len(voters) {
+			return false
+		}
+	}
+	return true
+}
+
+// P1 to P5: many scripts, with all that may go wrong. In each second one a
+// disk fails, and one shard of each blob may be lost.
 func TestScripts(t *testing.T) {
 	answered := map[int]int{}
-	for seed := range 60 {
+	for seed := range 40 {
 		d := dice(seed)
-		w := newNet(t, api.Setup{Nodes: 2 + d.roll(5), Voters: 1, Sectors: 4000, Code: api.Code{K: 1, M: 1}})
-		for range 600 {
-			w.step(&d, 0)
+		nodes := 2 + d.roll(5)
+		w := newNet(t, api.Setup{Nodes: nodes, Voters: 1 + d.roll(nodes), Sectors: 4000, Code: api.Code{K: 1 + d.roll(nodes-1), M: 1}})
+		lost := -1
+		for i := range 600 {
+			w.step(&d)
+			if i == 300 && seed%2 == 1 {
+				lost = d.roll(nodes)
+				w.dead(lost)
+			}
 		}
 		w.nothingLost()
-		for i, n := range w.nodes {
-			if n == nil {
-				w.start(i)
+		w.restart()
+		w.settle(30)
+		for i := range w.nodes {
+			if lost >= 0 && i != lost {
+				w.admin(i, api.Cmd{Kind: api.CmdFail, Node: lost})
 			}
 		}
 		for range 20 {
@@ -87,7 +120,7 @@ func TestScripts(t *testing.T) {
 				break
 			}
 		}
-		if w.busy() > 0 {
+		if w.busy() > 0 && w.alive() {
 			w.fail("seed %d: still busy: %d", seed, w.busy())
 		}
 		w.nothingLost()
@@ -99,4 +132,13 @@ func TestScripts(t *testing.T) {
 		}
 	}
 	t.Log(answered)
+}
+
+// restart opens all nodes that do not run, and have a disk.
+func (w *net) restart() {
+	for i, n := range w.nodes {
+		if n == nil && !w.plates[i].Failed() {
+			w.start(i)
+		}
+	}
 }
