@@ -94,7 +94,7 @@ func (w *net) alive() bool {
 // P1 to P5: many scripts, with all that may go wrong. In each second one a
 // disk fails, and one shard of each blob may be lost.
 func TestScripts(t *testing.T) {
-	answered := map[int]int{}
+	answered, alive := map[int]int{}, 0
 	for seed := range 40 {
 		d := dice(seed)
 		nodes := 2 + d.roll(5)
@@ -120,8 +120,11 @@ func TestScripts(t *testing.T) {
 				break
 			}
 		}
-		if w.busy() > 0 && w.alive() {
-			w.fail("seed %d: still busy: %d", seed, w.busy())
+		if w.alive() {
+			alive++
+			if w.busy() > 0 {
+				w.fail("seed %d: still busy: %d", seed, w.busy())
+			}
 		}
 		w.nothingLost()
 		w.right()
@@ -131,7 +134,14 @@ func TestScripts(t *testing.T) {
 			}
 		}
 	}
-	t.Log(answered)
+	for says := api.SaysOK; says <= api.SaysNot; says++ {
+		if answered[says] < 20 {
+			t.Errorf("%d was told %d times: too few to tell", says, answered[says])
+		}
+	}
+	if alive < 25 {
+		t.Errorf("%d nets had enough voters at the end: too few to tell", alive)
+	}
 }
 
 // restart opens all nodes that do not run, and have a disk.
