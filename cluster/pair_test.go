@@ -242,6 +242,9 @@ func (p *pair) same() {
 	for _, x := range packets {
 		spoil(x.Msg.Bytes, 0xee)
 		spoil(x.Msg.Cmd.Nodes, 13)
+		for _, v := range x.Msg.Votes {
+			spoil(v.Cmd.Nodes, 13)
+		}
 		spoil(x.Msg.Votes, api.Vote{Slot: 3})
 	}
 	spoil(packets, api.Sent{ID: 1})
